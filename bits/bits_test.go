@@ -73,6 +73,11 @@ func TestNext(t *testing.T) {
 			t.Error(from)
 		}
 	}
+	for from, want := range map[int]int{-3: 0, 0: 0, 1: 2, 2: 2, 3: 0} {
+		if got := of(t, 3, 1).Next(from); got != want {
+			t.Errorf("Next(%d) = %d, want %d", from, got, want)
+		}
+	}
 	if got := of(t, 3, 0, 1).Next(0); got != 2 {
 		t.Error(got)
 	}

@@ -51,9 +51,9 @@ func (e element) bytes() [32]byte {
 	return out
 }
 
-// reduced is the least number that equals e: it takes the modulus away once more where e, with 19 added, reaches 2^255.
+// reduced is the least number that equals e: it takes the modulus away where e, with 19 added, reaches 2^255.
+// No operation answers twice the modulus, so that once is enough.
 func (e element) reduced() element {
-	e = e.carried().carried()
 	over := uint64(19)
 	for _, x := range e {
 		over = (x + over) >> limbBits

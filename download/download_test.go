@@ -261,8 +261,12 @@ func TestChunksThatAreSealedOtherwise(t *testing.T) {
 		}
 		fails(t, w, answer(blob, ask(t, w)))
 	}
-	d, blob := described(15, 10, stream.Seal(key, 0, false, a), stream.Seal(key, 1, true, b))
+	d, blob := described(0, 10, stream.Seal(api.Key{}, 0, true, nil)) // of no bytes, none of which is wrong
 	w := download.New(d)
+	fetch(t, w, blob, 1)
+	fails(t, w, answer(blob, ask(t, w)))
+	d, blob = described(15, 10, stream.Seal(key, 0, false, a), stream.Seal(key, 1, true, b))
+	w = download.New(d)
 	fetch(t, w, blob, 3)
 	if !w.Done() || !bytes.Equal(w.Whole(), append(bytes.Clone(a), b...)) {
 		t.Error(w.Whole())

@@ -166,6 +166,18 @@ func TestMostSaves(t *testing.T) {
 	}
 }
 
+func TestNumberOfSaves(t *testing.T) {
+	d := diskOf(t, headOf(0x04030201, 1, 3), sector(), sector(1, 2, 3))
+	s := open(t, d)
+	if s.Seq() != 0x04030201 {
+		t.Error(s.Seq())
+	}
+	save(t, s, []byte{4})
+	if !bytes.Equal(d.Image()[:api.Sector], headOf(0x04030202, 0, 1)) || s.Seq() != 0x04030202 {
+		t.Error(d.Image()[:16], s.Seq())
+	}
+}
+
 func TestOpenOfWrongHeads(t *testing.T) {
 	with := func(i int, x byte) []byte {
 		b := headOf(5, 1, 100)

@@ -192,6 +192,11 @@ func TestReadOfWrongParts(t *testing.T) {
 	first := up
 	first.down = []byte{1, 2}
 	readFailsAt(t, "a Down that ends", encoded(8, 2, first, down), 0, api.ErrShort)
+	first.down = []byte{1}
+	readFailsAt(t, "a Down of one byte", encoded(8, 2, first, down), 0, api.ErrShort)
+	second := down
+	second.down = []byte{1}
+	readFailsAt(t, "the Down of a Down", encoded(8, 1, second), 0, api.ErrShort)
 	first.down, first.desc = nil, bytes.Clone(up.desc[:107])
 	readFailsAt(t, "a description that ends", encoded(8, 1, first), 76, api.ErrShort)
 }
