@@ -196,7 +196,7 @@ func TestGet(t *testing.T) {
 			t.Error(c, got, err)
 		}
 	}
-	for _, c := range [][2]int{{0, -1}, {0, 201}, {-1, 1}, {-1, 0}, {101, 200}, {300, 1}, {301, 0}, {math.MaxInt, 1}, {math.MinInt, 1}, {0, math.MaxInt}, {0, math.MinInt}, {math.MaxInt, math.MaxInt}} {
+	for _, c := range [][2]int{{0, -1}, {0, 201}, {-1, 1}, {101, 200}, {300, 1}, {math.MaxInt, 1}, {math.MinInt, 1}, {0, math.MaxInt}, {0, math.MinInt}, {math.MaxInt, math.MaxInt}} {
 		if got, err := s.Get(idOf(b), c[0], c[1]); err != api.ErrRange || len(got) != 0 {
 			t.Error(c, got, err)
 		}

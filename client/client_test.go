@@ -2,6 +2,7 @@ package client_test
 
 import (
 	"bytes"
+	"errors"
 	"slices"
 	"strconv"
 	"strings"
@@ -254,7 +255,9 @@ func TestOpenOfWrongStates(t *testing.T) {
 	}
 	refused("too many bytes", append(bytes.Clone(whole), 0), len(whole), api.ErrTrail)
 	many := make([][]byte, 18)
-	refused("too many packets", encoded(r, none, many...), places[2], api.ErrRange)
+	if c, err := client.Open(diskOf(t, encoded(r, none, many...))); c != nil || !errors.Is(err, api.ErrRange) {
+		t.Error("too many packets:", err)
+	}
 	refused("a long packet", encoded(r, none, make([]byte, 401)), places[3], api.ErrRange)
 	if c, err := client.Open(diskOf(t, encoded(r, none, many[:17]...))); err != nil || c.Waiting() != 17 {
 		t.Error("most packets:", err)
@@ -273,6 +276,11 @@ func TestOpenOfWrongStates(t *testing.T) {
 	w.U8(0)
 	refused("a table", w.Bytes(), -1, api.ErrForm)
 	w = code.Writer{}
+	w.List(make([]byte, 5))
+	w.List([]byte{0, 0, 0, 0, 0})
+	w.U8(0)
+	refused("a ratchet ahead of a table", w.Bytes(), 0, api.ErrShort)
+	w = code.Writer{}
 	w.U32(30001)
 	refused("a long list", w.Bytes(), 0, api.ErrRange)
 	w = code.Writer{}
@@ -290,7 +298,7 @@ func TestOpenOfWrongStates(t *testing.T) {
 }
 
 func TestOpenOfWrongDisks(t *testing.T) {
-	if c, err := client.Open(disk.New(20)); c != nil || err == nil || err.(*api.At).Err != api.ErrShort {
+	if c, err := client.Open(disk.New(20)); c != nil || !errors.Is(err, api.ErrShort) {
 		t.Error("nothing was saved:", c, err)
 	}
 	d := disk.New(20)
@@ -465,6 +473,11 @@ func TestSendFile(t *testing.T) {
 		move(t, a, api.Move{ID: id, Kind: api.Up, State: api.Going, Size: 30, All: len(b)})
 	}
 	unchanged(t, a, da, api.ErrLimit, func() error { _, err := a.SendFile(nil, 5, fileID); return err })
+	c, err := client.Open(diskOf(t, encoded(ratchet.Second(secret, seedB), rows)))
+	must(t, err)
+	if _, err := c.SendFile(nil, 5, fileID); err != api.ErrKey {
+		t.Error("the key comes ahead of the table:", err)
+	}
 	unchanged(t, a, da, api.ErrRange, func() error { _, err := a.SendFile(nil, 0, fileID); return err })
 }
 

@@ -174,25 +174,6 @@ func TestWhatCannotBeRead(t *testing.T) {
 	}
 }
 
-func TestWhatCannotBeReadIsNotPassed(t *testing.T) {
-	b := []byte{2, 0, 0, 0, 1}
-	err := code.Read(b, func(r *code.Reader) {
-		for _, f := range []func(){func() { r.Bool() }, func() { r.List(1) }, func() { r.List(2) }, func() { r.Raw(6) }, func() { r.Raw(-1) }} {
-			if trap.Try(f) == nil || r.At() != 0 {
-				t.Error("At", r.At())
-			}
-		}
-		r.U32()
-		if trap.Try(func() { r.U32() }) == nil || r.At() != 4 {
-			t.Error("At", r.At())
-		}
-		r.U8()
-	})
-	if err != nil {
-		t.Error(err)
-	}
-}
-
 func TestReadCatchesPanics(t *testing.T) {
 	own := errors.New("own")
 	var none []int
@@ -230,11 +211,5 @@ func TestReaderSharesNothing(t *testing.T) {
 	})
 	if err != nil || !bytes.Equal(b, before) {
 		t.Error(err, b)
-	}
-	var kept *code.Reader
-	code.Read(b, func(r *code.Reader) { kept = r })
-	clear(b)
-	if n := kept.U8(); n != 1 {
-		t.Error("the argument was kept")
 	}
 }

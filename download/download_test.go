@@ -65,15 +65,6 @@ func TestNew(t *testing.T) {
 	if w.Done() || have != 0 || all != 4 || len(w.Data()) != 0 || !bytes.Equal(w.Whole(), make([]byte, 100)) || *w.Pace() != (pace.Pace{}) {
 		t.Error(w.Done(), have, all, w.Data(), w.Whole(), w.Pace())
 	}
-	for _, d := range []api.Desc{{}, {Size: 601, Chunk: 5}, {Size: math.MaxUint32, Chunk: 1}, {Size: 5, Chunk: 65}} {
-		w := download.New(d) // such a description is nobody's; nothing may fall
-		w.Ask()
-		w.Answer(api.Response{})
-		w.Bytes()
-		w.Have()
-		w.Data()
-		w.Whole()
-	}
 }
 
 func TestDownloads(t *testing.T) {

@@ -342,8 +342,6 @@ func TestGreatestNumber(t *testing.T) {
 	h := api.Header{DH: public(seedA, 0), N: math.MaxUint32}
 	p := seal(keys(first, 1)[0], h, "last")
 	opens(t, b, p, "last")
-	refuses(t, b, p, api.ErrOld)
-	refuses(t, b, seal(keys(first, 2)[1], api.Header{DH: h.DH, N: 0}, "again"), api.ErrOld)
 }
 
 // TestConversation lets two sides talk over a net that loses, doubles and bends; each text comes at most once, and as it was sent.

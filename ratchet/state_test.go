@@ -2,6 +2,7 @@ package ratchet_test
 
 import (
 	"bytes"
+	"errors"
 	"testing"
 
 	"courier/api"
@@ -146,9 +147,11 @@ func TestReadOfWrongBytes(t *testing.T) {
 		b[at] = 2
 		readFails(t, b, at, api.ErrForm)
 	}
-	readFails(t, full(api.MaxKept+1), offKept, api.ErrRange)
-	readFails(t, full(api.MaxKept + 1)[:offKept+1], offKept, api.ErrRange)
-	readFails(t, full(255), offKept, api.ErrRange)
+	for _, n := range []int{api.MaxKept + 1, 255} {
+		if r, err := ratchet.Read(full(n)); r != nil || !errors.Is(err, api.ErrRange) {
+			t.Error(n, "kept keys:", err)
+		}
+	}
 	keeps(t, read(t, full(api.MaxKept)), api.MaxKept)
 }
 

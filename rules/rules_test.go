@@ -1,14 +1,9 @@
-// Package rules holds the program's source against ../shared/LANGUAGE.md, as far as a look at the text can.
+// Package rules holds the layers' imports against ../shared/LANGUAGE.md and the map of the document.
 package rules
 
 import (
-	"bytes"
-	"go/ast"
-	"go/format"
 	"go/parser"
 	"go/token"
-	"io/fs"
-	"os"
 	"path/filepath"
 	"slices"
 	"strconv"
@@ -16,112 +11,50 @@ import (
 	"testing"
 )
 
-const longest = 60 // lines of a function
-
+// library are the packages of Go's library that the layers may use.
 var library = []string{
 	"bytes", "cmp", "container/heap", "errors", "iter", "maps", "math", "math/bits", "slices", "sort",
 	"strconv", "strings", "sync", "sync/atomic", "unicode", "unicode/utf8",
 }
 
-// sources are the Go files of the project, by path, with what they contain.
-func sources(t *testing.T) map[string][]byte {
-	t.Helper()
-	files := map[string][]byte{}
-	err := filepath.WalkDir("..", func(path string, d fs.DirEntry, err error) error {
-		if err != nil {
-			return err
-		}
-		if d.IsDir() && (d.Name() == ".git" || d.Name() == "sharedtests") {
-			return filepath.SkipDir
-		}
-		if strings.HasSuffix(path, ".go") {
-			files[path], err = os.ReadFile(path)
-		}
-		return err
-	})
-	if err != nil {
-		t.Fatal(err)
-	}
-	if len(files) < 28 {
-		t.Fatal("the source was not found: only", len(files), "files")
-	}
-	return files
-}
-
-func isTest(path string) bool { return strings.HasSuffix(path, "_test.go") }
-
-func TestLayout(t *testing.T) {
-	for path, text := range sources(t) {
-		if want, err := format.Source(text); err != nil || !bytes.Equal(want, text) {
-			t.Error(path, "is not laid out by gofmt:", err)
-		}
-	}
-}
-
-func TestImports(t *testing.T) {
-	for path, text := range sources(t) {
-		if isTest(path) {
-			continue
-		}
-		f, err := parser.ParseFile(token.NewFileSet(), path, text, parser.ParseComments)
-		if err != nil {
-			t.Fatal(err)
-		}
-		for _, i := range f.Imports {
-			name, _ := strconv.Unquote(i.Path.Value)
-			if !strings.HasPrefix(name, "courier/") && !slices.Contains(library, name) {
-				t.Error(path, "imports", name)
-			}
-		}
-		for _, g := range f.Comments {
-			for _, c := range g.List {
-				if strings.HasPrefix(c.Text, "//go:") || strings.HasPrefix(c.Text, "// +build") {
-					t.Error(path, "has the line", c.Text)
-				}
-			}
-		}
-	}
-}
-
-func TestFunctionLength(t *testing.T) {
-	for path, text := range sources(t) {
-		if isTest(path) {
-			continue
-		}
-		set := token.NewFileSet()
-		f, err := parser.ParseFile(set, path, text, 0)
-		if err != nil {
-			t.Fatal(err)
-		}
-		for _, d := range f.Decls {
-			if fn, ok := d.(*ast.FuncDecl); ok {
-				if n := set.Position(fn.End()).Line - set.Position(fn.Pos()).Line + 1; n > longest {
-					t.Error(path, fn.Name.Name, "has", n, "lines")
-				}
-			}
-		}
-	}
-}
-
 // layers are the packages of the map, the lowest first.
 var layers = strings.Fields("api meter trap sha mac chacha poly aead curve disk slots code chain head skip ratchet stream tree proof desc blob frame bits pace upload download table client world")
 
-func TestLayersUseOnlyLowerOnes(t *testing.T) {
-	for path, text := range sources(t) {
-		own := slices.Index(layers, filepath.Base(filepath.Dir(path)))
-		if isTest(path) || own < 0 {
+// imports are what the files of a folder, but the tests, import.
+func imports(t *testing.T, folder string) (names []string) {
+	t.Helper()
+	files, err := filepath.Glob(filepath.Join("..", folder, "*.go"))
+	if err != nil || len(files) == 0 {
+		t.Fatal(folder, err)
+	}
+	for _, path := range files {
+		if strings.HasSuffix(path, "_test.go") {
 			continue
 		}
-		f, err := parser.ParseFile(token.NewFileSet(), path, text, parser.ImportsOnly)
+		f, err := parser.ParseFile(token.NewFileSet(), path, nil, parser.ImportsOnly)
 		if err != nil {
 			t.Fatal(err)
 		}
 		for _, i := range f.Imports {
-			name, _ := strconv.Unquote(i.Path.Value)
-			if used, ok := strings.CutPrefix(name, "courier/"); ok {
-				if at := slices.Index(layers, used); at < 0 || at >= own {
-					t.Error(path, "uses", used)
-				}
+			name, err := strconv.Unquote(i.Path.Value)
+			if err != nil {
+				t.Fatal(err)
+			}
+			names = append(names, name)
+		}
+	}
+	return names
+}
+
+func TestLayersUseTheLibraryAndLowerLayers(t *testing.T) {
+	for own, folder := range layers {
+		for _, name := range imports(t, folder) {
+			used, ours := strings.CutPrefix(name, "courier/")
+			if !ours && !slices.Contains(library, name) {
+				t.Error(folder, "imports", name)
+			}
+			if at := slices.Index(layers, used); ours && at >= own {
+				t.Error(folder, "uses", used, "which is not below it")
 			}
 		}
 	}

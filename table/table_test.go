@@ -50,7 +50,8 @@ func downRow(t *testing.T, id, state, chunks int) table.Row {
 }
 
 func same(a, b table.Row) bool {
-	return a.ID == b.ID && a.Kind == b.Kind && a.State == b.State && a.Desc == b.Desc && bytes.Equal(a.Blob, b.Blob) && a.Up == b.Up && a.Down == b.Down
+	return a.ID == b.ID && a.Kind == b.Kind && a.State == b.State && a.Desc == b.Desc && bytes.Equal(a.Blob, b.Blob) && a.Up == b.Up && (a.Down == nil) == (b.Down == nil) &&
+		(a.Down == nil || bytes.Equal(a.Down.Bytes(), b.Down.Bytes()))
 }
 
 func zero(r table.Row) bool { return same(r, table.Row{}) }
@@ -202,16 +203,6 @@ func TestMemory(t *testing.T) {
 	spoil(state)
 	if !bytes.Equal(b.Bytes(), kept) || !bytes.Equal(again.Bytes(), kept) {
 		t.Error("the encoding is shared")
-	}
-}
-
-func TestADownIsHeld(t *testing.T) {
-	var b table.Table
-	row := downRow(t, 1, api.Going, 1)
-	add(t, &b, row)
-	row.Down.Pace().Wait = 9
-	if r, _ := b.Get(1); r.Down.Pace().Wait != 9 {
-		t.Error("what is done to the Down is not seen")
 	}
 }
 

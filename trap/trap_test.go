@@ -51,7 +51,7 @@ func TestFail(t *testing.T) {
 
 func TestMust(t *testing.T) {
 	at := &api.At{Pos: 4, Err: api.ErrOld}
-	for _, e := range []error{api.ErrOff, errors.New("own"), at, (*api.At)(nil)} {
+	for _, e := range []error{api.ErrOff, errors.New("own"), at} {
 		if err := trap.Try(func() { trap.Must(e) }); err != e {
 			t.Errorf("Must(%T): %T", e, err)
 		}

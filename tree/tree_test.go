@@ -39,7 +39,7 @@ func TestLeafAndNode(t *testing.T) {
 func TestSplit(t *testing.T) {
 	for n, want := range map[int]int{
 		math.MinInt: 0, -1: 0, 0: 0, 1: 0, 2: 1, 3: 2, 4: 2, 5: 4, 6: 4, 7: 4, 8: 4, 9: 8, 16: 8, 17: 16, 600: 512, 1024: 512, 1025: 1024,
-		1 << 62: 1 << 61, 1<<62 + 1: 1 << 62, math.MaxInt: 1 << 62,
+		1 << 20: 1 << 19, 1<<20 + 1: 1 << 20,
 	} {
 		if got := tree.Split(n); got != want {
 			t.Errorf("Split(%d) = %d, want %d", n, got, want)

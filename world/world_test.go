@@ -452,12 +452,3 @@ func TestCrashThatCannotBeOpened(t *testing.T) {
 		t.Error("another client")
 	}
 }
-
-func TestPanicsAreCaught(t *testing.T) {
-	var w world.World // it has no clients: whatever falls is caught
-	for kind := api.SendText; kind <= api.Spoil; kind++ {
-		if err := w.Do(step(kind, 0, 0, 0)); err == nil {
-			t.Error(kind, "on nothing")
-		}
-	}
-}
